@@ -212,6 +212,11 @@ func someScore(r *rand.Rand) []impl.Note {
 	if r.Intn(2) == 0 {
 		low, pitches, starts, lengths = 50, 20, 60, 12
 	}
+	return scoreWithin(r, low, pitches, starts, lengths)
+}
+
+// scoreWithin returns a score of up to 30 notes with so many pitches from low on, and so many starts and lengths.
+func scoreWithin(r *rand.Rand, low, pitches, starts, lengths int) []impl.Note {
 	var l []impl.Note
 	for range r.Intn(60) {
 		longer := inOrder(append(l, note(low+r.Intn(pitches), r.Intn(starts), 1+r.Intn(lengths))))
@@ -220,4 +225,14 @@ func someScore(r *rand.Rand) []impl.Note {
 		}
 	}
 	return l
+}
+
+// someText returns a text of bytes that stand in texts, and of a few that do not.
+func someText(r *rand.Rand) string {
+	const bytes = "cdefgab# 0123456789\n\xff\x00-+"
+	b := make([]byte, r.Intn(24))
+	for i := range b {
+		b[i] = bytes[r.Intn(len(bytes))]
+	}
+	return string(b)
 }

@@ -458,15 +458,34 @@ func readText(s string, pitches map[string]int) ([]impl.Note, bool) {
 	return l, isScore(l)
 }
 
-// TestParseScoreOfChangedTexts changes each byte of texts.
-func TestParseScoreOfChangedTexts(t *testing.T) {
-	bases := []string{"c#5 4 2\n", "c2 0 1\nc8 0 99\na#4 999 10\n", "c5 0 2\nc5 2 1\n", lines(30)}
+// pitchesByName has the names of pitches that are too low or too high, too.
+func pitchesByName() map[string]int {
 	pitches := map[string]int{}
 	for i, class := range strings.Fields("c c# d d# e f f# g g# a a# b") {
 		for octave := range 10 {
 			pitches[class+strconv.Itoa(octave)] = 12*octave + i
 		}
 	}
+	return pitches
+}
+
+// changedTexts returns a text without each of its bytes, with each of them twice, and with any byte in place of or in front of each of them.
+func changedTexts(s string) []string {
+	var l []string
+	for i := range len(s) {
+		l = append(l, s[:i]+s[i+1:], s[:i]+s[i:i+1]+s[i:])
+		for b := range 256 {
+			c := string([]byte{byte(b)})
+			l = append(l, s[:i]+c+s[i+1:], s[:i]+c+s[i:])
+		}
+	}
+	return l
+}
+
+// TestParseScoreOfChangedTexts changes each byte of texts.
+func TestParseScoreOfChangedTexts(t *testing.T) {
+	bases := []string{"c#5 4 2\n", "c2 0 1\nc8 0 99\na#4 999 10\n", "c5 0 2\nc5 2 1\n", lines(30)}
+	pitches := pitchesByName()
 	read := 0
 	check := func(s string) {
 		want, fine := readText(s, pitches)
@@ -483,14 +502,8 @@ func TestParseScoreOfChangedTexts(t *testing.T) {
 		}
 	}
 	for _, base := range bases {
-		for i := range len(base) {
-			check(base[:i] + base[i+1:])
-			check(base[:i] + base[i:i+1] + base[i:])
-			for b := range 256 {
-				c := string([]byte{byte(b)})
-				check(base[:i] + c + base[i+1:])
-				check(base[:i] + c + base[i:])
-			}
+		for _, s := range changedTexts(base) {
+			check(s)
 		}
 	}
 	if read < 100 {

@@ -283,13 +283,9 @@ func TestPromise33NumbersNotesAndTexts(t *testing.T) {
 }
 
 func TestPromise33ParsedBytes(t *testing.T) {
-	const bytes = "cdefgab# 0123456789\n\xff\x00-+"
 	r := rand.New(rand.NewSource(8))
 	for range 20000 {
-		b := make([]byte, r.Intn(24))
-		for i := range b {
-			b[i] = bytes[r.Intn(len(bytes))]
-		}
-		noPanic(t, "ParseScore", func() { impl.ParseScore(string(b)) })
+		s := someText(r)
+		noPanic(t, "ParseScore", func() { impl.ParseScore(s) })
 	}
 }
