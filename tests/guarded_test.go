@@ -216,3 +216,29 @@ func checkApart(t *testing.T, name string, got []reflect.Value) {
 	}
 	checkAll(t, name+": slices of a result share memory", all, saved)
 }
+
+// checkReading holds what a parser reads in some texts, and in all changes of one byte of them, against their definition: read finds there what is to be found, and write has what is read as its text. It returns how many of the texts are read.
+func checkReading[T any](t *testing.T, bases []string, parse, read func(string) (T, bool), write func(T) (string, bool)) int {
+	t.Helper()
+	done := 0
+	for _, base := range bases {
+		for _, s := range append(changedTexts(base), base) {
+			want, fine := read(s)
+			if !fine {
+				want = *new(T)
+			}
+			got, ok := parse(s)
+			if ok != fine || !same(reflect.ValueOf(got), reflect.ValueOf(want)) {
+				t.Fatalf("%q: %v %v, want %v", s, got, ok, fine)
+			}
+			if !ok {
+				continue
+			}
+			done++
+			if back, ok := write(got); !ok || back != s {
+				t.Fatalf("%q: %q", s, back)
+			}
+		}
+	}
+	return done
+}

@@ -486,27 +486,8 @@ func changedTexts(s string) []string {
 func TestParseScoreOfChangedTexts(t *testing.T) {
 	bases := []string{"c#5 4 2\n", "c2 0 1\nc8 0 99\na#4 999 10\n", "c5 0 2\nc5 2 1\n", lines(30)}
 	pitches := pitchesByName()
-	read := 0
-	check := func(s string) {
-		want, fine := readText(s, pitches)
-		got, ok := impl.ParseScore(s)
-		if ok != fine || ok && !slices.Equal(got, want) || !ok && got != nil {
-			t.Fatalf("%q: %v %v, want %v", s, got, ok, fine)
-		}
-		if !ok {
-			return
-		}
-		read++
-		if back, ok := impl.ScoreText(got); !ok || back != s {
-			t.Fatalf("%q: %q", s, back)
-		}
-	}
-	for _, base := range bases {
-		for _, s := range changedTexts(base) {
-			check(s)
-		}
-	}
-	if read < 100 {
-		t.Error("too few texts are read", read)
+	read := func(s string) ([]impl.Note, bool) { return readText(s, pitches) }
+	if n := checkReading(t, bases, impl.ParseScore, read, impl.ScoreText); n < 100 {
+		t.Error("too few texts are read", n)
 	}
 }

@@ -525,24 +525,8 @@ func readInstrument(s string, pitches map[string]int) (impl.Instrument, bool) {
 func TestParseInstrumentOfChangedTexts(t *testing.T) {
 	bases := []string{"c5 1\n", "c5 d5 2\n", "c2 c#2 b7 c8 10\n", "a4 20\n", textOf(pitchesFrom(50, 20), "19")}
 	pitches := pitchesByName()
-	read := 0
-	for _, base := range bases {
-		for _, s := range append(changedTexts(base), base) {
-			want, fine := readInstrument(s, pitches)
-			got, ok := impl.ParseInstrument(s)
-			if ok != fine || ok && !sameInstrument(got, want) || !ok && !isNoInstrument(got) {
-				t.Fatalf("%q: %v %v, want %v", s, got, ok, fine)
-			}
-			if !ok {
-				continue
-			}
-			read++
-			if back, ok := impl.InstrumentText(got); !ok || back != s {
-				t.Fatalf("%q: %q", s, back)
-			}
-		}
-	}
-	if read < 100 {
-		t.Error("too few texts are read", read)
+	read := func(s string) (impl.Instrument, bool) { return readInstrument(s, pitches) }
+	if n := checkReading(t, bases, impl.ParseInstrument, read, impl.InstrumentText); n < 100 {
+		t.Error("too few texts are read", n)
 	}
 }

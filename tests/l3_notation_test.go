@@ -664,24 +664,8 @@ func TestParseVoiceOfChangedTexts(t *testing.T) {
 		strings.Repeat("r*1/1 ", 18) + "a#4*1/1", strings.Repeat("c5*1/1 ", 19) + "r*1/2",
 	}
 	pitches := pitchesByName()
-	read := 0
-	for _, base := range bases {
-		for _, s := range changedTexts(base) {
-			want, fine := readVoice(s, pitches)
-			got, ok := impl.ParseVoice(s)
-			if ok != fine || ok && !slices.Equal(got, want) || !ok && got != nil {
-				t.Fatalf("%q: %v %v, want %v", s, got, ok, fine)
-			}
-			if !ok {
-				continue
-			}
-			read++
-			if back, ok := impl.VoiceText(got); !ok || back != s {
-				t.Fatalf("%q: %q", s, back)
-			}
-		}
-	}
-	if read < 300 {
-		t.Error("too few texts are read", read)
+	read := func(s string) ([]impl.Event, bool) { return readVoice(s, pitches) }
+	if n := checkReading(t, bases, impl.ParseVoice, read, impl.VoiceText); n < 300 {
+		t.Error("too few texts are read", n)
 	}
 }
