@@ -153,15 +153,9 @@ func ScoreText(l []Note) (string, bool) {
 
 // ParseScore returns the score with a ScoreText. It fails if there is none.
 func ParseScore(s string) ([]Note, bool) {
-	var l []Note
-	for s != "" {
-		line, rest, ended := strings.Cut(s, "\n")
-		x, ok := readNote(line)
-		if !ended || !ok || len(l) == MaxNotes {
-			return nil, false
-		}
-		l = append(l, x)
-		s = rest
+	l, ok := readLines(s, readNote)
+	if !ok {
+		return nil, false
 	}
 	return scoreOnly(l)
 }
@@ -201,6 +195,30 @@ func changeScore(l []Note, change func(Note) Note) ([]Note, bool) {
 		changed[i] = change(x)
 	}
 	return scoreOnly(changed)
+}
+
+// readLines returns what is read in each line of a text, whose lines are all ended by a newline.
+func readLines[T any](s string, read func(line string) (T, bool)) ([]T, bool) {
+	lines := strings.Split(s, "\n")
+	last := len(lines) - 1
+	// Behind the last newline there is nothing.
+	if lines[last] != "" {
+		return nil, false
+	}
+	return readEach(lines[:last], read)
+}
+
+// readEach returns what is read in each word.
+func readEach[T any](words []string, read func(word string) (T, bool)) ([]T, bool) {
+	var all []T
+	for _, word := range words {
+		x, ok := read(word)
+		if !ok {
+			return nil, false
+		}
+		all = append(all, x)
+	}
+	return all, true
 }
 
 // readNote returns the note of a line of a ScoreText, without its newline.
@@ -256,4 +274,13 @@ func readNumber(word string) (int, bool) {
 		return 0, false
 	}
 	return n, true
+}
+
+// numbersLine returns a line with numbers in decimal, separated by single blanks.
+func numbersLine(numbers ...int) string {
+	var words []string
+	for _, n := range numbers {
+		words = append(words, strconv.Itoa(n))
+	}
+	return strings.Join(words, " ") + "\n"
 }
